@@ -11,6 +11,7 @@ import (
 	"time"
 
 	"stencil/api"
+	"stencil/fresh"
 )
 
 var null = api.Value{Kind: api.KNull}
@@ -436,7 +437,7 @@ func TestP5_2Same(t *testing.T) {
 	}
 	for i, a := range ordinary {
 		expectSame(t, "what is not used", a.v, junk(a.v), true)
-		expectSame(t, "a copy", a.v, copied(a.v), true)
+		expectSame(t, "a copy", a.v, fresh.Value(a.v), true)
 		expectSame(t, "in a list", list(a.v), list(junk(a.v)), true)
 		for j, b := range ordinary {
 			expectSame(t, "ordinary "+strconv.Itoa(i)+" and "+strconv.Itoa(j), a.v, b.v, asked[i] == asked[j])
@@ -859,7 +860,7 @@ func TestR4AnswersAreNew(t *testing.T) {
 			if e != api.OK {
 				continue
 			}
-			kept := copied(two)
+			kept := fresh.Value(two)
 			spoil(one)
 			if !reflect.DeepEqual(opened(v), before) {
 				t.Errorf("sample %d, call %d: the answer shares memory with the argument", i, j)
