@@ -8,6 +8,7 @@ import (
 	"testing"
 
 	"stencil/api"
+	"stencil/core"
 	"stencil/expr"
 	"stencil/syntax"
 )
@@ -47,6 +48,9 @@ func expectAsked(t *testing.T, ns []api.Node) answer {
 	}
 	if words := against(got); len(words) > 0 {
 		t.Fatalf("P14.4: %s: %s: %v", printed(ns), cut(show(got)), words)
+	}
+	if code := core.Check(got); code != api.OK {
+		t.Fatalf("P14.4: %s: %s: %d", printed(ns), cut(show(got)), code)
 	}
 	return want
 }

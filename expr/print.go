@@ -10,50 +10,12 @@ import (
 	"stencil/whole"
 )
 
-// mayBe tells whether e, of at most so many nodes as there is room for, is a tree that could be read; it takes from the room what e needs, and goes no further than that.
-func mayBe(e api.Expr, room *int) bool {
-	if *room == 0 || len(e.Kids) != kidsOf(e.Op) || !fits(e) {
-		return false
+// canBeRead tells whether a text or a variable could be read, by its Int and Str.
+func canBeRead(leaf api.Expr) bool {
+	if leaf.Op == api.EVar {
+		return leaf.Int == 0 && utf.Name(leaf.Str) && !slices.Contains(words(), leaf.Str)
 	}
-	*room--
-	for _, kid := range e.Kids {
-		if !mayBe(kid, room) {
-			return false
-		}
-	}
-	return true
-}
-
-// kidsOf is how many kids each Op has; -1 of those that are none.
-func kidsOf(op int) int {
-	switch {
-	case api.ENull <= op && op <= api.EVar:
-		return 0
-	case op == api.EField, op == api.ECall, op == api.ENeg, op == api.ENot:
-		return 1
-	case op == api.EIndex, api.EMul <= op && op <= api.EAny:
-		return 2
-	case op == api.EIf:
-		return 3
-	}
-	return -1
-}
-
-// fits tells whether Int and Str are such as the Op asks for.
-func fits(e api.Expr) bool {
-	switch e.Op {
-	case api.EInt:
-		return e.Int >= 0 && e.Str == ""
-	case api.EStr:
-		return e.Int == 0 && isText(e.Str)
-	case api.EVar:
-		return e.Int == 0 && utf.Name(e.Str) && !slices.Contains(words(), e.Str)
-	case api.EField:
-		return e.Int == 0 && utf.Name(e.Str)
-	case api.ECall:
-		return api.CallLen <= e.Int && e.Int <= api.CallU32 && e.Str == ""
-	}
-	return e.Int == 0 && e.Str == ""
+	return leaf.Int == 0 && isText(leaf.Str)
 }
 
 // isText tells whether a text can be written: of the bytes below 32 only LF has an escape.

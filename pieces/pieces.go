@@ -1,22 +1,37 @@
-// Package pieces counts what a core node is made of (DOC.md, chapter 15).
+// Package pieces tells what a core node is made of (DOC.md, chapter 15).
 package pieces
 
-import "stencil/api"
+import (
+	"iter"
+
+	"stencil/api"
+)
+
+// Exprs are the expressions of c alone, without those of the nodes in it: of its bound fields, of its bound parts, and its own.
+func Exprs(c api.Core) iter.Seq[api.Expr] {
+	return func(yield func(api.Expr) bool) {
+		for _, field := range c.Fields {
+			if field.Bound && !yield(field.Expr) {
+				return
+			}
+		}
+		for _, part := range c.Parts {
+			if part.Bound && !yield(part.Expr) {
+				return
+			}
+		}
+		for _, e := range c.Exprs {
+			if !yield(e) {
+				return
+			}
+		}
+	}
+}
 
 // Left is how much of the room is left behind the pieces of c alone, without those of the nodes in it; it is below 0, if there is not enough. An expression is gone through no further than that, so that one that lies in itself many times over ends too.
 func Left(room int, c api.Core) int {
 	room -= 1 + len(c.Fields) + len(c.Parts) + len(c.Exprs)
-	for _, field := range c.Fields {
-		if field.Bound {
-			room = behind(room, field.Expr)
-		}
-	}
-	for _, part := range c.Parts {
-		if part.Bound {
-			room = behind(room, part.Expr)
-		}
-	}
-	for _, e := range c.Exprs {
+	for e := range Exprs(c) {
 		room = behind(room, e)
 	}
 	return room

@@ -45,3 +45,29 @@ func TestLeftShared(t *testing.T) {
 		}
 	}
 }
+
+func TestExprs(t *testing.T) {
+	number := func(n int) api.Expr { return api.Expr{Op: api.EInt, Int: n} }
+	c := api.Core{
+		Fields: []api.Field{{Bound: true, Expr: number(1)}, {Expr: number(9)}, {Bound: true, Expr: number(2)}},
+		Parts:  []api.Part{{Expr: number(9)}, {Bound: true, Expr: number(3)}, {Plain: "x"}, {Bound: true, Expr: number(4)}},
+		Exprs:  []api.Expr{number(5), number(6)},
+		Kids:   []api.Core{{Exprs: []api.Expr{number(9)}}},
+		Else:   []api.Core{{Exprs: []api.Expr{number(9)}}},
+	}
+	for last := 1; last <= 7; last++ {
+		next := 1
+		for e := range Exprs(c) {
+			if e.Int != next {
+				t.Errorf("%d, want %d", e.Int, next)
+			}
+			if next == last {
+				break
+			}
+			next++
+		}
+		if next != last {
+			t.Errorf("it ended at %d, not %d", next, last)
+		}
+	}
+}

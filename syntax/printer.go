@@ -6,7 +6,7 @@ import (
 	"stencil/api"
 	"stencil/expr"
 	"stencil/html"
-	"stencil/short"
+	"stencil/shape"
 	"stencil/utf"
 )
 
@@ -36,7 +36,7 @@ func (p *printer) node(n api.Node, depth int) bool {
 	p.room--
 	switch n.Kind {
 	case api.NText:
-		return n.Tag == "" && len(n.Fields) == 0 && len(n.Kids) == 0 && p.parts(n.Parts)
+		return n.Tag == "" && len(n.Fields) == 0 && len(n.Kids) == 0 && shape.Row(n.Parts) && p.parts(n.Parts)
 	case api.NElem:
 		return len(n.Parts) == 0 && depth < api.MaxNest && p.element(n, depth+1)
 	}
@@ -44,10 +44,7 @@ func (p *printer) node(n api.Node, depth int) bool {
 }
 
 func (p *printer) parts(parts []api.Part) bool {
-	for i, part := range parts {
-		if !part.Bound && (part.Plain == "" || i > 0 && !parts[i-1].Bound) {
-			return false
-		}
+	for _, part := range parts {
 		text, ok := written(part)
 		if !ok {
 			return false
@@ -58,7 +55,7 @@ func (p *printer) parts(parts []api.Part) bool {
 			p.write(html.Text(text))
 		}
 	}
-	return len(parts) > 0
+	return true
 }
 
 func (p *printer) element(n api.Node, depth int) bool {
@@ -104,14 +101,12 @@ func (p *printer) write(texts ...string) {
 
 // written is the text of what may be one of a text's parts or a field's value, ahead of its escapes: the plain text, or the expression's.
 func written(part api.Part) (string, bool) {
+	if !shape.Value(part) {
+		return "", false
+	}
 	if !part.Bound {
-		return part.Plain, short.Text(part.Plain) && isNone(part.Expr)
+		return part.Plain, true
 	}
 	text, code := expr.Print(part.Expr)
-	return text, code == api.OK && part.Plain == ""
-}
-
-// isNone tells the zero expression, whose kids may be an empty list.
-func isNone(e api.Expr) bool {
-	return e.Op == 0 && e.Int == 0 && e.Str == "" && len(e.Kids) == 0
+	return text, code == api.OK
 }
