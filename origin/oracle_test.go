@@ -143,15 +143,15 @@ func askedForest(spots []api.Spot) []api.Tree {
 			elements = append(elements, i)
 		}
 	}
-	return held(spots, -1)
+	return heldBy(spots, -1)
 }
 
-// held are the trees of those spots whose parent is at that place.
-func held(spots []api.Spot, place int) []api.Tree {
+// heldBy are the trees of those spots whose parent is at that place.
+func heldBy(spots []api.Spot, place int) []api.Tree {
 	var out []api.Tree
 	for i, spot := range spots {
 		if spot.Parent == place {
-			out = append(out, api.Tree{Tag: spot.Tag, Text: spot.Text, Attrs: spot.Attrs, Kids: held(spots, i)})
+			out = append(out, api.Tree{Tag: spot.Tag, Text: spot.Text, Attrs: spot.Attrs, Kids: heldBy(spots, i)})
 		}
 	}
 	return out
