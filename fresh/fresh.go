@@ -1,4 +1,4 @@
-// Package fresh copies what is handed on, so that no answer shares memory with an argument or with another answer.
+// Package fresh copies what is handed on, so that no answer shares memory with an argument or with another answer, and nothing is kept of what was handed in.
 package fresh
 
 import (
@@ -10,9 +10,43 @@ import (
 // Value is a copy of v and of all that lies in it.
 func Value(v api.Value) api.Value {
 	v.Names = slices.Clone(v.Names)
-	v.List = slices.Clone(v.List)
-	for i, part := range v.List {
-		v.List[i] = Value(part)
-	}
+	v.List = list(v.List, Value)
 	return v
+}
+
+// Cores is a copy of cs and of all that lies in them.
+func Cores(cs []api.Core) []api.Core {
+	return list(cs, node)
+}
+
+func node(c api.Core) api.Core {
+	c.Fields = list(c.Fields, field)
+	c.Parts = list(c.Parts, part)
+	c.Exprs = list(c.Exprs, expression)
+	c.Kids, c.Else = Cores(c.Kids), Cores(c.Else)
+	return c
+}
+
+func field(f api.Field) api.Field {
+	f.Expr = expression(f.Expr)
+	return f
+}
+
+func part(p api.Part) api.Part {
+	p.Expr = expression(p.Expr)
+	return p
+}
+
+func expression(e api.Expr) api.Expr {
+	e.Kids = list(e.Kids, expression)
+	return e
+}
+
+// list is a list of copies.
+func list[T any](olds []T, copied func(T) T) []T {
+	news := slices.Clone(olds)
+	for i, old := range news {
+		news[i] = copied(old)
+	}
+	return news
 }

@@ -37,3 +37,54 @@ func TestValue(t *testing.T) {
 		t.Error("two lists of the copy share memory")
 	}
 }
+
+func TestCores(t *testing.T) {
+	made := func() []api.Core {
+		hole := api.Expr{Op: api.EAdd, Kids: []api.Expr{{Op: api.EVar, Int: 2}, {Op: api.ENeg, Kids: []api.Expr{{Op: api.EStr, Str: "s"}}}}}
+		text := api.Core{Kind: api.CText, Parts: []api.Part{{Plain: "x"}, {Bound: true, Expr: hole}}}
+		elem := api.Core{Kind: api.CElem, Tag: "p", Fields: []api.Field{{Name: "a", Plain: "v", At: 7}, {Name: "b", Bound: true, Expr: hole}}, Kids: []api.Core{text}}
+		return []api.Core{
+			text, elem, {Kind: api.CIf, Exprs: []api.Expr{hole}, Kids: []api.Core{elem}, Else: []api.Core{text, elem}}, {},
+			{Kind: api.CFor, Exprs: []api.Expr{hole, hole}, Kids: []api.Core{elem}}, {Kind: 9, Tag: "\xff", Kids: []api.Core{{Kind: api.CWith, Kids: []api.Core{text}}}},
+		}
+	}
+	cs := made()
+	got := Cores(cs)
+	if !reflect.DeepEqual(got, made()) || !reflect.DeepEqual(cs, made()) {
+		t.Fatalf("%v", got)
+	}
+	for _, spoil := range []func(cs []api.Core){
+		func(cs []api.Core) { cs[0].Kind = 3 },
+		func(cs []api.Core) { cs[0].Parts[0].Plain = "y" },
+		func(cs []api.Core) { cs[0].Parts[1].Expr.Kids[1].Kids[0].Str = "y" },
+		func(cs []api.Core) { cs[1].Fields[0].Plain = "y" },
+		func(cs []api.Core) { cs[1].Fields[1].Expr.Kids[0].Int = 5 },
+		func(cs []api.Core) { cs[1].Kids[0].Kind = 3 },
+		func(cs []api.Core) { cs[2].Exprs[0].Op = 3 },
+		func(cs []api.Core) { cs[2].Exprs[0].Kids[1].Op = 3 },
+		func(cs []api.Core) { cs[2].Kids[0].Fields[1].Name = "y" },
+		func(cs []api.Core) { cs[2].Else[1].Kids[0].Parts[0].Plain = "y" },
+		func(cs []api.Core) { cs[5].Kids[0].Kids[0].Parts[1].Expr.Kids[0].Int = 5 },
+	} {
+		given := made()
+		copied := Cores(given)
+		spoil(copied)
+		if !reflect.DeepEqual(given, made()) {
+			t.Fatal("the copy shares memory")
+		}
+		copied = Cores(given)
+		spoil(given)
+		if !reflect.DeepEqual(copied, made()) {
+			t.Fatal("the copy shares memory")
+		}
+	}
+	if Cores(nil) != nil {
+		t.Error("a copy of none")
+	}
+	// One part twice is two parts of the copy.
+	twice := Cores([]api.Core{cs[1], cs[1]})
+	twice[0].Kids[0].Parts[0].Plain = "y"
+	if twice[1].Kids[0].Parts[0].Plain != "x" {
+		t.Error("two nodes of the copy share memory")
+	}
+}
