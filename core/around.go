@@ -32,15 +32,7 @@ func (a around) isTooDeep() bool {
 
 // has tells whether each place that e asks is one of the stack.
 func (a around) has(e api.Expr) bool {
-	if e.Op == api.EVar && (e.Int < 0 || e.Int >= a.stack) {
-		return false
-	}
-	for _, kid := range e.Kids {
-		if !a.has(kid) {
-			return false
-		}
-	}
-	return true
+	return shape.Placed(e, a.stack-1)
 }
 
 // Each of the following clears the fields that its Kind has; the others must be zero.

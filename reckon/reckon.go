@@ -1,16 +1,21 @@
-// Package reckon holds what expressions come to (DOC.md, chapter 11), for all layers that reckon them, whether their EVars are names or places. It asks nothing of what it is given: whoever calls it has checked that.
+// Package reckon holds what expressions come to (DOC.md, chapter 11), for all layers that reckon them, whether their EVars are names or places, and whether they are trees or code. It asks nothing of what it is given: whoever calls it has checked that.
 package reckon
 
 import "stencil/api"
 
 // Value is what e comes to, where bound tells what an EVar stands for and whether it stands for anything. The answer may share memory with what bound tells.
-func Value(e api.Expr, bound func(api.Expr) (api.Value, bool)) (v api.Value, code api.Errno) {
+func Value(e api.Expr, bound func(api.Expr) (api.Value, bool)) (api.Value, api.Errno) {
+	return caught(func() api.Value { return walker{bound}.value(e) })
+}
+
+// caught is what is reckoned, or the error that was thrown on the way.
+func caught(reckoned func() api.Value) (v api.Value, code api.Errno) {
 	defer func() {
 		if thrown, ok := recover().(api.Errno); ok {
 			v, code = api.Value{}, thrown
 		}
 	}()
-	return walker{bound}.value(e), api.OK
+	return reckoned(), api.OK
 }
 
 type walker struct {

@@ -45,3 +45,24 @@ func TestValuePlaces(t *testing.T) {
 		}
 	}
 }
+
+// TestCode: code is run as it stands, with the texts and the stack that it names; package code tests the rest.
+func TestCode(t *testing.T) {
+	stack, texts := []api.Value{number(5), text("x"), truth(true), {Kind: api.KList, List: []api.Value{number(7)}}}, []string{"y", "z"}
+	for _, c := range []struct {
+		code []api.Inst
+		want api.Value
+		err  api.Errno
+	}{
+		{[]api.Inst{{Op: api.IVar, A: 0}}, number(5), api.OK},
+		{[]api.Inst{{Op: api.IVar, A: 1}, {Op: api.IStr, A: 1}, {Op: api.ICat}}, text("xz"), api.OK},
+		{[]api.Inst{{Op: api.IVar, A: 1}, {Op: api.IVar, A: 0}, {Op: api.IAdd}}, api.Value{}, api.ErrEvalType},
+		{[]api.Inst{{Op: api.IVar, A: 2}, {Op: api.IElse, A: 4}, {Op: api.IInt, A: 1}, {Op: api.IJump, A: 5}, {Op: api.IInt, A: 2}}, number(1), api.OK},
+		{[]api.Inst{{Op: api.IVar, A: 2}, {Op: api.IAny, A: 3}, {Op: api.INull}}, truth(true), api.OK},
+		{[]api.Inst{{Op: api.IVar, A: 3}, {Op: api.IInt}, {Op: api.IIndex}, {Op: api.INeg}}, number(-7), api.OK},
+	} {
+		if v, code := Code(c.code, texts, stack); code != c.err || !reflect.DeepEqual(v, c.want) {
+			t.Errorf("%v: %v, %d", c.code, v, code)
+		}
+	}
+}

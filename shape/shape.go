@@ -22,6 +22,19 @@ func Resolved(e api.Expr) bool {
 	})
 }
 
+// Placed tells whether the places that e asks are all from 0 to last.
+func Placed(e api.Expr, last int) bool {
+	if e.Op == api.EVar && (e.Int < 0 || e.Int > last) {
+		return false
+	}
+	for _, kid := range e.Kids {
+		if !Placed(kid, last) {
+			return false
+		}
+	}
+	return true
+}
+
 // Row tells whether parts may stand in one text, by which of them are plain.
 func Row(parts []api.Part) bool {
 	for i, part := range parts {

@@ -101,6 +101,23 @@ func TestResolved(t *testing.T) {
 	}
 }
 
+func TestPlaced(t *testing.T) {
+	for _, last := range []int{-1, 0, 1, 5, math.MaxInt - 1, math.MaxInt} {
+		for _, place := range []int{math.MinInt, -1, 0, 1, 2, 5, 6, math.MaxInt - 1, math.MaxInt} {
+			want := place >= 0 && place <= last
+			for _, e := range []api.Expr{v(place), op(api.ENeg, v(place)), op(api.EAdd, v(place), op(api.ENull)), op(api.EIf, op(api.ETrue), op(api.ENull), op(api.ENot, v(place)))} {
+				if Placed(e, last) != want {
+					t.Errorf("%d of %d: %v", place, last, !want)
+				}
+			}
+			// Integers are no places.
+			if !Placed(api.Expr{Op: api.EInt, Int: place}, last) || Placed(op(api.EAdd, v(-1), v(place)), last) {
+				t.Errorf("%d of %d", place, last)
+			}
+		}
+	}
+}
+
 // TestShared: an expression that lies in itself many times over is not gone through.
 func TestShared(t *testing.T) {
 	e := v(0)
