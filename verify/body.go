@@ -6,8 +6,11 @@ import (
 	"stencil/api"
 )
 
-// maxDeep is how many elements at most lie in one another.
-const maxDeep = 2 * api.MaxNest
+// maxDeep is how deep a node may lie, maxOpen how deep an OpOpen's element may, so that it has room for a text; the outermost ones lie 1 deep.
+const (
+	maxDeep = 2 * api.MaxNest
+	maxOpen = maxDeep - 1
+)
 
 // loopValues is how many values an OpFor puts on the stack.
 const loopValues = 2
@@ -159,7 +162,7 @@ func (b *body) stands(place int, op api.Op) bool {
 	case api.OpAttr, api.OpAttrX:
 		return b.rises(place, op)
 	case api.OpOpen:
-		return b.elements < maxDeep
+		return b.elements+1 <= maxOpen
 	case api.OpStatic:
 		return b.elements+b.depths[op.A] <= maxDeep
 	case api.OpClose:

@@ -7,6 +7,8 @@ import (
 	"testing"
 
 	"stencil/api"
+	"stencil/core"
+	"stencil/forest"
 )
 
 // filled is a program whose texts, codes and statics are as many as said, the last of each named by an operation.
@@ -239,34 +241,72 @@ func TestP22_1Loops(t *testing.T) {
 	expectOK(t, p)
 }
 
-// TestP22_1Deep: elements 2 MaxNest deep, and one more, in one block or in blocks in one another; statics of each depth.
+// TestP22_1Deep: elements 2 MaxNest - 1 deep, and one more, in one block or in blocks in one another.
 func TestP22_1Deep(t *testing.T) {
 	t.Parallel()
-	const most = 64
+	const most = 63
 	for n := 1; n <= most; n++ {
 		expectOK(t, one(slices.Concat(times(n, open), times(n, shut), times(n, open), times(n, shut))...))
-		// What else lies in them is not asked.
+		// Texts in the innermost one lie one deeper.
 		expectOK(t, one(slices.Concat(times(n, open), []api.Op{attrP, words, state, let, drop(1), either(0, 0)}, times(n, shut))...))
 	}
-	expect(t, one(slices.Concat(times(most+1, open), times(most+1, shut))...), 0, most, api.ErrVerifyShape)
+	for _, inner := range [][]api.Op{nil, {words}, {state}, {attrP}, {open, shut}, {still}} {
+		p := one(slices.Concat(times(most+1, open), inner, times(most+1, shut))...)
+		expect(t, p, 0, most, api.ErrVerifyShape)
+		if got := judged(p); got != (found{0, most, api.ErrVerifyShape}) {
+			t.Errorf("%v was asked for", got)
+		}
+	}
+	expect(t, one(times(most+1, open)...), 0, most, api.ErrVerifyShape)
 	expect(t, one(slices.Concat([]api.Op{open, shut}, times(most+1, open), times(most+1, shut))...), 0, most+2, api.ErrVerifyShape)
 	for _, kind := range []int{api.OpIf, api.OpWith} {
 		for n := 1; n < most; n += 7 {
 			owners := slices.Repeat([]int{kind}, n)
 			// So many lie around the last block's tail already.
 			lie := n + 1
-			inner := func(more int) []api.Op { return slices.Concat(times(more, open), times(more, shut)) }
+			inner := func(more int) []api.Op { return slices.Concat(times(more, open), []api.Op{words}, times(more, shut)) }
 			expectOK(t, program0(nested(owners, inner(most-lie)...)...))
 			expect(t, program0(nested(owners, inner(most-lie+1)...)...), n, most-lie+1, api.ErrVerifyShape)
 			expect(t, program0(nested(slices.Repeat([]int{kind}, most+n))...), most, 0, api.ErrVerifyShape)
 		}
 	}
+	// An OpFor's block must begin with an element of its own, or a static.
+	for _, lie := range []int{most - 1, most} {
+		around := slices.Concat(times(lie, open), []api.Op{loop(1)}, times(lie, shut))
+		expectOK(t, program0(block(1, around...), block(3, still)))
+		if lie < most {
+			expectOK(t, program0(block(1, around...), block(3, open, shut)))
+		} else {
+			expect(t, program0(block(1, around...), block(3, open, shut)), 1, 0, api.ErrVerifyShape)
+		}
+	}
+}
+
+// TestP22_1DeepAsCore: as many elements may lie in one another as in a core, and chapter 7 takes what they make, with a text in the innermost.
+func TestP22_1DeepAsCore(t *testing.T) {
+	for n := 1; n < 70; n++ {
+		tree, node := api.Tree{Text: "x"}, api.Core{Kind: api.CText, Parts: []api.Part{{Plain: "x"}}}
+		for range n {
+			tree = api.Tree{Tag: "p", Kids: []api.Tree{tree}}
+			node = api.Core{Kind: api.CElem, Tag: "p", Kids: []api.Core{node}}
+		}
+		_, _, fault := Verify(one(slices.Concat(times(n, open), []api.Op{words}, times(n, shut))...))
+		if may := fault == api.OK; may != (core.Check([]api.Core{node}) == api.OK) || may != (forest.Check([]api.Tree{tree}) == api.OK) {
+			t.Errorf("%d elements in one another: %d", n, fault)
+		}
+	}
+}
+
+// TestP22_1DeepStatics: statics of each depth, at the deepest place where they may lie, and one deeper.
+func TestP22_1DeepStatics(t *testing.T) {
+	t.Parallel()
+	const most = 64
 	for tall := 1; tall <= most; tall++ {
 		p := one()
 		p.Statics = append(p.Statics, tower(tall), api.Tree{Tag: "w", Kids: []api.Tree{{Text: "x"}, {Tag: "y"}}})
 		p.Statics[statics+1].Kids = append(p.Statics[statics+1].Kids, tower(tall).Kids...)
 		static := op(api.OpStatic, statics)
-		for _, lie := range []int{0, most - tall, most - tall + 1, most} {
+		for _, lie := range []int{0, most - tall, min(most-tall+1, most-1), most - 1} {
 			bent := p
 			bent.Blocks = []api.Block{block(1, slices.Concat(times(lie, open), []api.Op{static}, times(lie, shut))...)}
 			if lie+tall <= most {
@@ -417,8 +457,8 @@ func TestP22_1FirstOfOne(t *testing.T) {
 		{one(op(api.OpClose, 1)), 0, api.ErrVerifyOp},
 		{one(op(api.OpDrop, 1, 1)), 0, api.ErrVerifyOp},
 		{one(op(api.OpDrop, -1)), 0, api.ErrVerifyOp},
-		{one(append(times(64, open), op(api.OpOpen, textNoTag))...), 64, api.ErrVerifyOp},
-		{one(append(times(64, open), op(api.OpStatic, statics))...), 64, api.ErrVerifyOp},
+		{one(append(times(63, open), op(api.OpOpen, textNoTag))...), 63, api.ErrVerifyOp},
+		{one(append(times(63, open), op(api.OpStatic, statics))...), 63, api.ErrVerifyOp},
 		{one(append(times(63, let), op(api.OpLet, codes))...), 63, api.ErrVerifyOp},
 		{one(append(times(63, let), op(api.OpLet, 0, 1))...), 63, api.ErrVerifyOp},
 	} {

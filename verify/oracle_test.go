@@ -294,7 +294,8 @@ func (j *judge) wrongShape(number, place int, o api.Op) bool {
 	case api.OpDrop:
 		return o.A > left(inner)
 	case api.OpOpen:
-		return elements > 63
+		// It lies one deeper than those around it.
+		return elements+1 > 63
 	case api.OpStatic:
 		return elements+tall(j.Statics[o.A]) > 64
 	}
