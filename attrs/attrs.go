@@ -1,4 +1,4 @@
-// Package attrs tells how the attributes of a node differ from those that it has later.
+// Package attrs tells how the attributes of a node differ from those that it has later, and sets what differs.
 package attrs
 
 import (
@@ -6,7 +6,19 @@ import (
 	"iter"
 
 	"stencil/api"
+	"stencil/dom"
 )
+
+// Set gives the element node the attributes news in place of olds, which it has. It touches none that stays as it is.
+func Set(arena *dom.Dom, node int, olds, news []api.Attr) {
+	for attr, stays := range Changes(olds, news) {
+		if stays {
+			arena.SetAttr(node, attr.Name, attr.Value)
+		} else {
+			arena.DropAttr(node, attr.Name)
+		}
+	}
+}
 
 // Changes goes through the names that have not the same value in both lists, or stand in one alone: each with the attribute as the new list has it and true, or, where that has none, as the old one has it and false. Both lists rise by name.
 func Changes(olds, news []api.Attr) iter.Seq2[api.Attr, bool] {

@@ -7,6 +7,7 @@ import (
 	"testing"
 
 	"stencil/api"
+	"stencil/dom"
 )
 
 // listOf is a list of names with values behind equals signs.
@@ -94,6 +95,25 @@ func TestEvery(t *testing.T) {
 			}
 			if count != 2*len(strings.Fields(want)) {
 				t.Fatalf("%v, %v: a second walk goes elsewhere", olds, news)
+			}
+		}
+	}
+}
+
+// TestSet: every pair of lists of few names and two values, of an element in an arena: each change counts once.
+func TestSet(t *testing.T) {
+	lists := []string{"", "a=1", "a=2", "b=1", "a=1 b=1", "a=2 b=1", "b=2 c=1", "a=1 b=2 c=1 d=2", "c="}
+	for _, a := range lists {
+		for _, b := range lists {
+			olds, news := listOf(a), listOf(b)
+			arena, _ := dom.New(2)
+			node, code := arena.Build(api.Tree{Tag: "p", Attrs: olds})
+			if code != api.OK {
+				t.Fatal(code)
+			}
+			Set(arena, node, olds, news)
+			if got := arena.Cells()[node].Attrs; !slices.Equal(got, news) || arena.Counts().Attrs != len(strings.Fields(asked(olds, news))) {
+				t.Errorf("%s, %s: %v, %+v", a, b, got, arena.Counts())
 			}
 		}
 	}

@@ -27,6 +27,32 @@ func node(c api.Core) api.Core {
 	return c
 }
 
+// Program is a copy of p and of all that lies in it.
+func Program(p api.Program) api.Program {
+	p.Texts = slices.Clone(p.Texts)
+	p.Codes = list(p.Codes, slices.Clone[[]api.Inst])
+	p.Statics = list(p.Statics, tree)
+	p.Blocks = list(p.Blocks, block)
+	return p
+}
+
+func tree(t api.Tree) api.Tree {
+	t.Attrs = slices.Clone(t.Attrs)
+	t.Kids = list(t.Kids, tree)
+	return t
+}
+
+func block(b api.Block) api.Block {
+	b.Ops = list(b.Ops, operation)
+	b.Update = slices.Clone(b.Update)
+	return b
+}
+
+func operation(o api.Op) api.Op {
+	o.List = slices.Clone(o.List)
+	return o
+}
+
 func field(f api.Field) api.Field {
 	f.Expr = expression(f.Expr)
 	return f

@@ -88,3 +88,47 @@ func TestCores(t *testing.T) {
 		t.Error("two nodes of the copy share memory")
 	}
 }
+
+func TestProgram(t *testing.T) {
+	made := func() api.Program {
+		tree := api.Tree{Tag: "p", Attrs: []api.Attr{{Name: "a", Value: "v"}}, Kids: []api.Tree{{Tag: "q", Kids: []api.Tree{{Text: "x"}}}, {Text: "y"}}}
+		return api.Program{
+			Texts: []string{"a", "\xff"}, Codes: [][]api.Inst{{{Op: api.IInt, A: 5}, {Op: 99}}, nil, {{Op: api.INull}}}, Statics: []api.Tree{tree, {Text: "z"}, {}},
+			Blocks: []api.Block{{Depth: 1, Ops: []api.Op{{Kind: api.OpWith, A: 1, B: 2, C: 3, List: []int{4, 5}}, {Kind: 99}}, Update: []int{0, -1}}, {}, {Depth: 3, Ops: []api.Op{{List: []int{1}}}}},
+		}
+	}
+	p := made()
+	got := Program(p)
+	if !reflect.DeepEqual(got, made()) || !reflect.DeepEqual(p, made()) {
+		t.Fatalf("%v", got)
+	}
+	for _, spoil := range []func(p api.Program){
+		func(p api.Program) { p.Texts[1] = "b" },
+		func(p api.Program) { p.Codes[1] = []api.Inst{{}} },
+		func(p api.Program) { p.Codes[0][1].A = 3 },
+		func(p api.Program) { p.Statics[1].Text = "b" },
+		func(p api.Program) { p.Statics[0].Attrs[0].Value = "b" },
+		func(p api.Program) { p.Statics[0].Kids[1].Text = "b" },
+		func(p api.Program) { p.Statics[0].Kids[0].Kids[0].Text = "b" },
+		func(p api.Program) { p.Blocks[1].Depth = 7 },
+		func(p api.Program) { p.Blocks[0].Update[1] = 7 },
+		func(p api.Program) { p.Blocks[0].Ops[1].Kind = 7 },
+		func(p api.Program) { p.Blocks[0].Ops[0].List[1] = 7 },
+		func(p api.Program) { p.Blocks[2].Ops[0].List[0] = 7 },
+	} {
+		given := made()
+		copied := Program(given)
+		spoil(copied)
+		if !reflect.DeepEqual(given, made()) {
+			t.Fatal("the copy shares memory")
+		}
+		copied = Program(given)
+		spoil(given)
+		if !reflect.DeepEqual(copied, made()) {
+			t.Fatal("the copy shares memory")
+		}
+	}
+	if !reflect.DeepEqual(Program(api.Program{}), api.Program{}) {
+		t.Error("a copy of none")
+	}
+}

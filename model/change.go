@@ -161,11 +161,5 @@ func (c *change) set(old, now api.Spot) {
 	if old.Text != now.Text {
 		c.arena.SetText(node, now.Text)
 	}
-	for attr, stays := range attrs.Changes(old.Attrs, now.Attrs) {
-		if stays {
-			c.arena.SetAttr(node, attr.Name, attr.Value)
-		} else {
-			c.arena.DropAttr(node, attr.Name)
-		}
-	}
+	attrs.Set(c.arena, node, old.Attrs, now.Attrs)
 }

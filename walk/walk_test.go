@@ -127,3 +127,95 @@ func TestAt(t *testing.T) {
 		}
 	}
 }
+
+// thrown is the error that a call throws, OK, if it throws none.
+func thrown(call func()) (code api.Errno) {
+	defer func() {
+		if x, ok := recover().(api.Errno); ok {
+			code = x
+		}
+	}()
+	call()
+	return api.OK
+}
+
+func number(n int) api.Value { return api.Value{Kind: api.KInt, Int: n} }
+
+// TestAsked: what a value of each kind is taken as, or that it is not.
+func TestAsked(t *testing.T) {
+	list := []api.Value{number(4)}
+	for _, c := range []struct {
+		v                       api.Value
+		text, attr              string
+		isText, isTest, isList  bool
+		attrTaken, isAttr, test bool
+	}{
+		{v: api.Value{Kind: api.KNull}, isText: true, attrTaken: true},
+		{v: api.Value{Kind: api.KBool}, text: "false", isText: true, attrTaken: true, isTest: true},
+		{v: api.Value{Kind: api.KBool, Bool: true}, text: "true", isText: true, attrTaken: true, isAttr: true, isTest: true, test: true},
+		{v: number(-3), text: "-3", isText: true, attr: "-3", attrTaken: true, isAttr: true},
+		{v: api.Value{Kind: api.KStr, Str: "x"}, text: "x", isText: true, attr: "x", attrTaken: true, isAttr: true},
+		{v: api.Value{Kind: api.KStr}, isText: true, attrTaken: true, isAttr: true},
+		{v: api.Value{Kind: api.KList, List: list}, isList: true},
+		{v: api.Value{Kind: api.KRec, Names: []string{"a"}, List: list}},
+	} {
+		var got string
+		var is bool
+		var taken []api.Value
+		refused := func(is bool) api.Errno { return map[bool]api.Errno{true: api.OK, false: api.ErrEvalType}[is] }
+		if code := thrown(func() { got = Text(c.v) }); code != refused(c.isText) || got != c.text {
+			t.Errorf("%v: text %q, %d", c.v, got, code)
+		}
+		got = ""
+		if code := thrown(func() { got, is = Attr(c.v) }); code != refused(c.attrTaken) || got != c.attr || is != c.isAttr {
+			t.Errorf("%v: attribute %q, %v, %d", c.v, got, is, code)
+		}
+		is = false
+		if code := thrown(func() { is = Truth(c.v) }); code != refused(c.isTest) || is != c.test {
+			t.Errorf("%v: test %v, %d", c.v, is, code)
+		}
+		if code := thrown(func() { taken = List(c.v) }); code != refused(c.isList) || (len(taken) == 1) != c.isList {
+			t.Errorf("%v: list %v, %d", c.v, taken, code)
+		}
+	}
+}
+
+// TestKeys: each is reckoned with its element and number on the stack, which is as it was then; the first error is thrown.
+func TestKeys(t *testing.T) {
+	held := Places{number(9)}
+	list := []api.Value{number(5), {Kind: api.KStr, Str: "5"}, number(0), {Kind: api.KNull}}
+	asked := ""
+	key := func() api.Value {
+		asked += fmt.Sprintf("%d %d%s %d, ", len(held), held[1].Int, held[1].Str, held[2].Int)
+		return held[1]
+	}
+	want := []api.Key{{Kind: api.KInt, Int: 5}, {Kind: api.KStr, Str: "5"}, {Kind: api.KInt}}
+	if got := held.Keys(list[:3], key, api.ErrVmKey); !slices.Equal(got, want) || asked != "3 5 0, 3 05 1, 3 0 2, " {
+		t.Errorf("%v, %q", got, asked)
+	}
+	if len(held) != 1 || held[0].Int != 9 || held.Keys(nil, key, api.ErrVmKey) != nil {
+		t.Errorf("%v", held)
+	}
+	for _, c := range []struct {
+		list []api.Value
+		code api.Errno
+	}{{list, api.ErrEvalType}, {append(slices.Clone(list[:3]), list[1]), api.ErrVmKey}, {append(slices.Clone(list[:1]), list[0], list[3]), api.ErrVmKey}, {append(slices.Clone(list[:1]), list[3], list[0]), api.ErrEvalType}} {
+		held = Places{number(9)}
+		if code := thrown(func() { held.Keys(c.list, key, api.ErrVmKey) }); code != c.code {
+			t.Errorf("%v: %d, want %d", c.list, code, c.code)
+		}
+	}
+}
+
+// TestWithin: the element and its number lie on the stack during the call alone.
+func TestWithin(t *testing.T) {
+	held, calls := Places{number(9)}, 0
+	held.Within([]api.Value{number(5), number(6)}, 1, func() {
+		if calls++; len(held) != 3 || held[1].Int != 6 || held[2].Int != 1 {
+			t.Errorf("%v", held)
+		}
+	})
+	if calls != 1 || len(held) != 1 {
+		t.Errorf("%d, %v", calls, held)
+	}
+}

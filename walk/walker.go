@@ -4,6 +4,7 @@ import (
 	"strings"
 
 	"stencil/api"
+	"stencil/reckon"
 )
 
 // walker goes through a core, with the stack that each node has; it has room for so many nodes of the forest more.
@@ -52,7 +53,7 @@ func (w *walker) text(parts []api.Part) string {
 	for _, part := range parts {
 		piece := part.Plain
 		if part.Bound {
-			piece = textOf(w.value(part.Expr))
+			piece = Text(w.value(part.Expr))
 		}
 		if out.Len()+len(piece) > api.MaxStr {
 			panic(api.ErrEvalLong)
@@ -77,20 +78,13 @@ func (w *walker) attr(field api.Field) (string, bool) {
 	if !field.Bound {
 		return field.Plain, true
 	}
-	v := w.value(field.Expr)
-	switch v.Kind {
-	case api.KNull:
-		return "", false
-	case api.KBool:
-		return "", v.Bool
-	}
-	return textOf(v), true
+	return Attr(w.value(field.Expr))
 }
 
 // choose goes past the numbers of the kids, if it is the else that is met.
 func (w *walker) choose(c api.Core, number int) {
 	number++
-	if w.truth(c.Exprs[0]) {
+	if Truth(w.value(c.Exprs[0])) {
 		w.nodes(c.Kids, number)
 		return
 	}
@@ -101,40 +95,27 @@ func (w *walker) choose(c api.Core, number int) {
 }
 
 func (w *walker) loop(c api.Core, number int) {
-	list := w.list(c.Exprs[0])
-	w.maker.Loop(number, w.keys(list, c.Exprs[1]), func(i int) {
-		w.push(list[i], whole(i))
-		w.nodes(c.Kids, number+1)
-		w.drop(2)
+	list := List(w.value(c.Exprs[0]))
+	key := func() api.Value { return w.value(c.Exprs[1]) }
+	w.maker.Loop(number, w.Keys(list, key, api.ErrRenderKey), func(i int) {
+		w.Within(list, i, func() { w.nodes(c.Kids, number+1) })
 	})
 }
 
-// keys throws, if an element of a list has no key, or the key of one ahead of it.
-func (w *walker) keys(list []api.Value, e api.Expr) []api.Key {
-	var out []api.Key
-	met := make(map[api.Key]int, len(list))
-	for i, element := range list {
-		w.push(element, whole(i))
-		key := w.key(e)
-		w.drop(2)
-		if _, twice := met[key]; twice {
-			panic(api.ErrRenderKey)
-		}
-		met[key] = i
-		out = append(out, key)
+// value asks neither whether e nor whether what lies on the stack may be: core.Check and value.Check did, and what comes of such may be too.
+func (w *walker) value(e api.Expr) api.Value {
+	v, code := reckon.Value(e, w.At)
+	if code != api.OK {
+		panic(code)
 	}
-	return out
+	return v
 }
 
 // with puts each value on the stack as soon as it is known: no expression of c asks for the place of one ahead of it, as core.Check bounds the places.
 func (w *walker) with(c api.Core, number int) {
 	for _, e := range c.Exprs {
-		w.push(w.value(e))
+		w.Push(w.value(e))
 	}
 	w.nodes(c.Kids, number+1)
-	w.drop(len(c.Exprs))
-}
-
-func whole(i int) api.Value {
-	return api.Value{Kind: api.KInt, Int: i}
+	w.Drop(len(c.Exprs))
 }
